@@ -11,6 +11,7 @@ import (
 	"inquest/api"
 	"inquest/norm"
 	"inquest/raw"
+	"inquest/sample"
 )
 
 // full has something of each kind, and each of the resets: inputs 1 and 2, latches 3 to 5, gates 6 to 8.
@@ -550,14 +551,6 @@ func TestAny(t *testing.T) {
 	}
 }
 
-// dice answers numbers below n that look like chance, the same ones each time.
-func dice(seed uint64) func(n int) int {
-	return func(n int) int {
-		seed = seed*6364136223846793005 + 1442695040888963407
-		return int(seed >> 33 % uint64(n))
-	}
-}
-
 // someCircuit answers a valid circuit of at most most variables.
 func someCircuit(roll func(int) int, most int) api.Circuit {
 	inputs := roll(most + 1)
@@ -583,7 +576,7 @@ func someCircuit(roll func(int) int, most int) api.Circuit {
 // P4.4: what Put answers is read as the same circuit, by Get and by Any, and so is the circuit as ASCII, by Any.
 func TestWrittenIsRead(t *testing.T) {
 	circuits := []api.Circuit{{}, full(), widest(), wires(api.MaxVars), wires(0, repeat(api.Gate{}, api.MaxVars)...)}
-	roll := dice(1)
+	roll := sample.Dice(1)
 	for i := range 3000 {
 		circuits = append(circuits, someCircuit(roll, 1+i%12))
 	}

@@ -8,7 +8,16 @@ import (
 
 	"inquest/api"
 	"inquest/norm"
+	"inquest/sample"
 	"inquest/sim"
+)
+
+var (
+	dice        = sample.Dice
+	digits      = sample.Digits
+	frames      = sample.Frames
+	someCircuit = sample.Circuit
+	trace       = sample.Told
 )
 
 // zeroed answers a trace with each X read as 0.
@@ -80,27 +89,6 @@ func judgedCut(t api.Trace, states [][]uint8) (api.Trace, []int) {
 
 func sameStates(a, b [][]uint8) bool { return slices.EqualFunc(a, b, bytes.Equal) }
 
-// digits answers values from a text of 0, 1 and x.
-func digits(s string) []uint8 {
-	l := []uint8{}
-	for i := range len(s) {
-		l = append(l, uint8(bytes.IndexByte([]byte("01x"), s[i])))
-	}
-	return l
-}
-
-func frames(texts ...string) [][]uint8 {
-	var l [][]uint8
-	for _, s := range texts {
-		l = append(l, digits(s))
-	}
-	return l
-}
-
-func trace(bad int, first string, texts ...string) api.Trace {
-	return api.Trace{Bad: bad, Init: digits(first), Frames: frames(texts...)}
-}
-
 // follower has the inputs 1 to 3 and three free latches, each of which is next what its input is; it always fails (bad 0), never (bad 1), or where the first latch is 1 (bad 2).
 func follower() api.Circuit {
 	return api.Circuit{
@@ -120,16 +108,11 @@ func through(states string) api.Trace {
 	return api.Trace{Init: l[0], Frames: l[1:]}
 }
 
-// full has inputs 1 and 2, latches 3 to 5 (at first 0, 1, free), gates 6 to 9.
+// full is the sample whose last bad literal always holds.
 func full() api.Circuit {
-	return api.Circuit{
-		Inputs:      2,
-		Latches:     []api.Latch{{Next: 12}, {Next: 15, Reset: 1}, {Next: 3, Reset: api.X}},
-		Gates:       []api.Gate{{A: 4, B: 2}, {A: 13, B: 11}, {A: 14, B: 1}, {A: 8, B: 6}},
-		Outputs:     []uint32{16, 3},
-		Bads:        []uint32{18, 17, 1},
-		Constraints: []uint32{1, 13},
-	}
+	c := sample.Full()
+	c.Bads[2] = 1
+	return c
 }
 
 // P8.1: States.
@@ -357,81 +340,14 @@ func TestMisfits(t *testing.T) {
 // P8.1, P8.2: circuits that are not valid.
 func TestWrongCircuits(t *testing.T) {
 	x := trace(2, "01x", "00", "00")
-	for i, change := range []func(c *api.Circuit){
-		func(c *api.Circuit) { c.Inputs = -1 },
-		func(c *api.Circuit) { c.Inputs = math.MinInt },
-		func(c *api.Circuit) { c.Inputs = math.MaxInt },
-		func(c *api.Circuit) { c.Inputs = api.MaxVars },
-		func(c *api.Circuit) { c.Inputs = 1 << 32 },
-		func(c *api.Circuit) { c.Latches[0].Next = 20 },
-		func(c *api.Circuit) { c.Latches[2].Next = math.MaxUint32 },
-		func(c *api.Circuit) { c.Latches[2].Reset = 3 },
-		func(c *api.Circuit) { c.Gates[1].A = 14 },
-		func(c *api.Circuit) { c.Gates[3].A = math.MaxUint32 },
-		func(c *api.Circuit) { c.Gates[0] = api.Gate{A: 2, B: 4} },
-		func(c *api.Circuit) { c.Outputs[1] = 20 },
-		func(c *api.Circuit) { c.Bads[0] = 20 },
-		func(c *api.Circuit) { c.Bads = c.Bads[:2] },
-		func(c *api.Circuit) { c.Constraints[1] = math.MaxUint32 },
-		func(c *api.Circuit) { c.Constraints = make([]uint32, api.MaxList+1) },
-	} {
-		c := full()
-		change(&c)
-		refused(t, "change "+string(rune('a'+i)), c, x)
+	for i, c := range sample.WrongCircuits() {
+		refused(t, "circuit "+string(rune('a'+i)), c, x)
 	}
+	c := full()
+	c.Bads = c.Bads[:2]
+	refused(t, "a bad literal too few", c, x)
 	refused(t, "no circuit", api.Circuit{}, x)
 	refused(t, "neither", api.Circuit{}, api.Trace{})
-}
-
-// dice answers numbers below n that look like chance, the same ones each time.
-func dice(seed uint64) func(n int) int {
-	return func(n int) int {
-		seed = seed*6364136223846793005 + 1442695040888963407
-		return int(seed >> 33 % uint64(n))
-	}
-}
-
-// someCircuit answers a valid circuit of a few variables with a few bad literals.
-func someCircuit(roll func(int) int) api.Circuit {
-	c := api.Circuit{Inputs: roll(4)}
-	latches, gates := roll(5), roll(8)
-	free := 1 + c.Inputs + latches
-	lit := func(vars int) uint32 { return uint32(roll(2 * vars)) }
-	for range latches {
-		c.Latches = append(c.Latches, api.Latch{Next: lit(free + gates), Reset: uint8(roll(3))})
-	}
-	for i := range gates {
-		a, b := lit(free+i), lit(free+i)
-		c.Gates = append(c.Gates, api.Gate{A: max(a, b), B: min(a, b)})
-	}
-	for range 1 + roll(3) {
-		c.Bads = append(c.Bads, lit(free+gates))
-	}
-	if roll(4) == 0 {
-		c.Constraints = append(c.Constraints, lit(free+gates))
-	}
-	return c
-}
-
-// someTrace answers a trace that fits; of its values, as many kinds occur.
-func someTrace(roll func(int) int, c api.Circuit, frames, kinds int) api.Trace {
-	values := func(n int) []uint8 {
-		l := make([]uint8, n)
-		for i := range l {
-			l[i] = uint8(roll(kinds))
-		}
-		return l
-	}
-	t := api.Trace{Bad: roll(len(c.Bads)), Init: values(len(c.Latches))}
-	for i, l := range c.Latches {
-		if l.Reset != 2 {
-			t.Init[i] = l.Reset
-		}
-	}
-	for range frames {
-		t.Frames = append(t.Frames, values(c.Inputs))
-	}
-	return t
 }
 
 // P8.1, P8.2: the functions do what the words say, on circuits and traces of all kinds.
@@ -440,7 +356,7 @@ func TestAgainstWords(t *testing.T) {
 	fine, none, shorter := 0, 0, 0
 	for range 20000 {
 		c := someCircuit(roll)
-		x := someTrace(roll, c, 1+roll(12), 2+roll(2))
+		x := sample.Trace(roll, c, roll(len(c.Bads)), 1+roll(12), 2+roll(2))
 		states, fails := judged(c, x)
 		if l, e := States(c, x); !sameStates(l, states) || e != api.OK {
 			t.Fatalf("States(%v, %v) = %v, %d, not %v", c, x, l, e, states)
@@ -478,7 +394,7 @@ func TestConsequences(t *testing.T) {
 	shorter := 0
 	for range 10000 {
 		c := someCircuit(roll)
-		x := someTrace(roll, c, 1+roll(20), 2+roll(2))
+		x := sample.Trace(roll, c, roll(len(c.Bads)), 1+roll(20), 2+roll(2))
 		got, remain, e := Cut(c, x)
 		if e != api.OK {
 			continue

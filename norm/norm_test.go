@@ -7,6 +7,7 @@ import (
 
 	"inquest/api"
 	"inquest/raw"
+	"inquest/sample"
 )
 
 // full has something of each kind, and each of the resets: inputs 1 and 2, latches 3 to 5, gates 6 to 8.
@@ -535,14 +536,6 @@ func spoilRawList(r api.Raw, i int) {
 	}
 }
 
-// dice answers numbers below n that look like chance, the same ones each time.
-func dice(seed uint64) func(n int) int {
-	return func(n int) int {
-		seed = seed*6364136223846793005 + 1442695040888963407
-		return int(seed >> 33 % uint64(n))
-	}
-}
-
 // someRaw answers a valid raw circuit of a few variables, most of which have definitions; literals are of any variable, or, if it is tame, of those that are defined and, for gates, of those ahead of them in an order that the list does not tell.
 func someRaw(roll func(int) int, tame bool) api.Raw {
 	most := 1 + roll(9)
@@ -641,7 +634,7 @@ func judge(r api.Raw) (map[uint32]uint32, api.Errno) {
 
 // P3.2: raw circuits of all kinds are refused as the chapter says, or numbered as it says.
 func TestOfAgainstWords(t *testing.T) {
-	roll := dice(1)
+	roll := sample.Dice(1)
 	seen := map[api.Errno]int{}
 	for range 20000 {
 		r := someRaw(roll, roll(3) == 0)
@@ -685,7 +678,7 @@ func translated(r api.Raw, to map[uint32]uint32) api.Circuit {
 
 // P3.3: what Of answers is valid, and Of of Raw answers it again.
 func TestBackAgain(t *testing.T) {
-	roll := dice(2)
+	roll := sample.Dice(2)
 	list := []api.Circuit{{}, full(), widest(), mixedOf(), {Inputs: api.MaxVars}}
 	for range 2000 {
 		r := someRaw(roll, true)
@@ -708,7 +701,7 @@ func TestBackAgain(t *testing.T) {
 
 // P3.3: for all values of inputs and latches, what the circuit tells of has the values that the text's equations give.
 func TestValuesAgree(t *testing.T) {
-	roll := dice(3)
+	roll := sample.Dice(3)
 	for range 1000 {
 		r := someRaw(roll, true)
 		// Outputs tell of every gate, so that no numbering has to be known here.

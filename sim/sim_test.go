@@ -8,6 +8,20 @@ import (
 
 	"inquest/api"
 	"inquest/norm"
+	"inquest/sample"
+)
+
+var (
+	dice          = sample.Dice
+	digits        = sample.Digits
+	frames        = sample.Frames
+	full          = sample.Full
+	someCircuit   = sample.Circuit
+	someTrace     = sample.Trace
+	someValues    = sample.Values
+	trace         = sample.Told
+	wrongCircuits = sample.WrongCircuits
+	wrongTraces   = sample.WrongTraces
 )
 
 // negations and conjunctions are written out from DOC.md's section Terms.
@@ -77,90 +91,6 @@ func zeroed(t api.Trace) api.Trace {
 }
 
 func sameRun(a, b [][]uint8) bool { return slices.EqualFunc(a, b, bytes.Equal) }
-
-// frames answers frames from texts of digits.
-func frames(texts ...string) [][]uint8 {
-	var l [][]uint8
-	for _, s := range texts {
-		l = append(l, digits(s))
-	}
-	return l
-}
-
-func digits(s string) []uint8 {
-	l := []uint8{}
-	for i := range len(s) {
-		l = append(l, uint8(bytes.IndexByte([]byte("01x"), s[i])))
-	}
-	return l
-}
-
-func trace(bad int, first string, texts ...string) api.Trace {
-	return api.Trace{Bad: bad, Init: digits(first), Frames: frames(texts...)}
-}
-
-// full has inputs 1 and 2, latches 3 to 5 (at first 0, 1, free), gates 6 to 9.
-func full() api.Circuit {
-	return api.Circuit{
-		Inputs:      2,
-		Latches:     []api.Latch{{Next: 12}, {Next: 15, Reset: 1}, {Next: 3, Reset: api.X}},
-		Gates:       []api.Gate{{A: 4, B: 2}, {A: 13, B: 11}, {A: 14, B: 1}, {A: 8, B: 6}},
-		Outputs:     []uint32{16, 3},
-		Bads:        []uint32{18, 17, 10},
-		Constraints: []uint32{1, 13},
-	}
-}
-
-// wrongCircuits are not valid, each for a reason of its own.
-func wrongCircuits() []api.Circuit {
-	l := []api.Circuit{{Inputs: -1}, {Inputs: math.MinInt}, {Inputs: math.MaxInt}, {Inputs: api.MaxVars + 1}, {Inputs: 1 << 32}}
-	for _, change := range []func(c *api.Circuit){
-		func(c *api.Circuit) { c.Inputs = api.MaxVars },
-		func(c *api.Circuit) { c.Latches[0].Next = 20 },
-		func(c *api.Circuit) { c.Latches[2].Reset = 3 },
-		func(c *api.Circuit) { c.Gates[1].A = 14 },
-		func(c *api.Circuit) { c.Gates[3].A = math.MaxUint32 },
-		func(c *api.Circuit) { c.Gates[0] = api.Gate{A: 2, B: 4} },
-		func(c *api.Circuit) { c.Outputs[1] = 20 },
-		func(c *api.Circuit) { c.Bads[0] = 20 },
-		func(c *api.Circuit) { c.Constraints[1] = math.MaxUint32 },
-		func(c *api.Circuit) { c.Bads = make([]uint32, api.MaxList+1) },
-	} {
-		c := full()
-		change(&c)
-		l = append(l, c)
-	}
-	return l
-}
-
-// wrongTraces do not fit full, each for a reason of its own; several of them would if they were read without X.
-func wrongTraces() []api.Trace {
-	return []api.Trace{
-		{},
-		trace(-1, "01x", "00"),
-		trace(3, "01x", "00"),
-		trace(math.MinInt, "01x", "00"),
-		trace(math.MaxInt, "01x", "00"),
-		trace(0, "01", "00"),
-		trace(0, "01x0", "00"),
-		trace(0, "", "00"),
-		trace(0, "11x", "00"),
-		trace(0, "00x", "00"),
-		trace(0, "x1x", "00"),
-		trace(0, "0xx", "00"),
-		trace(0, "01x"),
-		trace(0, "01x", slices.Repeat([]string{"00"}, api.MaxFrames+1)...),
-		trace(0, "01x", "0"),
-		trace(0, "01x", "000"),
-		trace(0, "01x", ""),
-		trace(0, "01x", "00", "01", "1"),
-		{Init: []uint8{0, 1, 3}, Frames: frames("00")},
-		{Init: []uint8{0, 1, 255}, Frames: frames("00")},
-		{Init: digits("01x"), Frames: [][]uint8{{0, 3}}},
-		{Init: digits("01x"), Frames: [][]uint8{{0, 0}, {255, 0}}},
-		{Init: digits("01x"), Frames: [][]uint8{nil}},
-	}
-}
 
 // P7.1: Value of each byte, and of its negation.
 func TestValue(t *testing.T) {
@@ -507,58 +437,6 @@ func TestManyErrors(t *testing.T) {
 	if _, _, e := Many(full(), many[:api.Side]); e != api.OK {
 		t.Errorf("Many: %d", e)
 	}
-}
-
-// dice answers numbers below n that look like chance, the same ones each time.
-func dice(seed uint64) func(n int) int {
-	return func(n int) int {
-		seed = seed*6364136223846793005 + 1442695040888963407
-		return int(seed >> 33 % uint64(n))
-	}
-}
-
-func someValues(roll func(int) int, n, kinds int) []uint8 {
-	l := make([]uint8, n)
-	for i := range l {
-		l[i] = uint8(roll(kinds))
-	}
-	return l
-}
-
-// someCircuit answers a valid circuit of a few variables with one to three bad literals.
-func someCircuit(roll func(int) int) api.Circuit {
-	c := api.Circuit{Inputs: roll(4)}
-	latches, gates := roll(4), roll(10)
-	free := 1 + c.Inputs + latches
-	lit := func(vars int) uint32 { return uint32(roll(2 * vars)) }
-	for range latches {
-		c.Latches = append(c.Latches, api.Latch{Next: lit(free + gates), Reset: uint8(roll(3))})
-	}
-	for i := range gates {
-		a, b := lit(free+i), lit(free+i)
-		c.Gates = append(c.Gates, api.Gate{A: max(a, b), B: min(a, b)})
-	}
-	for range 1 + roll(3) {
-		c.Bads = append(c.Bads, lit(free+gates))
-	}
-	for range max(roll(5)-2, 0) {
-		c.Constraints = append(c.Constraints, lit(free+gates))
-	}
-	return c
-}
-
-// someTrace answers a trace that fits; of its values, as many kinds occur.
-func someTrace(roll func(int) int, c api.Circuit, bad, frames, kinds int) api.Trace {
-	t := api.Trace{Bad: bad, Init: someValues(roll, len(c.Latches), kinds)}
-	for i, l := range c.Latches {
-		if l.Reset != 2 {
-			t.Init[i] = l.Reset
-		}
-	}
-	for range frames {
-		t.Frames = append(t.Frames, someValues(roll, c.Inputs, kinds))
-	}
-	return t
 }
 
 // P7.1: Frame and Run do what DOC.md's words say, on circuits and values of all kinds.

@@ -11,6 +11,7 @@ import (
 
 	"inquest/api"
 	"inquest/norm"
+	"inquest/sample"
 )
 
 // full has each of the values, with 4 latches and 3 inputs.
@@ -652,34 +653,18 @@ func TestEveryByteChanged(t *testing.T) {
 	}
 }
 
-// dice answers numbers below n that look like chance, the same ones each time.
-func dice(seed uint64) func(n int) int {
-	return func(n int) int {
-		seed = seed*6364136223846793005 + 1442695040888963407
-		return int(seed >> 33 % uint64(n))
-	}
-}
-
-func someValues(roll func(int) int, many int) []uint8 {
-	l := make([]uint8, many)
-	for i := range l {
-		l[i] = uint8(roll(3))
-	}
-	return l
-}
-
 // someTrace answers a trace that can be written.
 func someTrace(roll func(int) int, latches, inputs, frames int) api.Trace {
-	t := api.Trace{Bad: roll(api.MaxList), Init: someValues(roll, latches)}
+	t := api.Trace{Bad: roll(api.MaxList), Init: sample.Values(roll, latches, 3)}
 	for range frames {
-		t.Frames = append(t.Frames, someValues(roll, inputs))
+		t.Frames = append(t.Frames, sample.Values(roll, inputs, 3))
 	}
 	return t
 }
 
 // P5.3, P0.6: what Put answers is read as the same trace, and that is written as the same bytes.
 func TestWrittenIsRead(t *testing.T) {
-	roll := dice(1)
+	roll := sample.Dice(1)
 	traces := []api.Trace{full(), still(0, 0, 1), still(0, 0, api.MaxFrames), still(api.MaxVars, 0, 1), still(0, api.MaxVars, 63)}
 	for i := range 2000 {
 		traces = append(traces, someTrace(roll, roll(1+i%20), roll(1+i%20), 1+roll(1+i%10)))
