@@ -1,10 +1,7 @@
 package clause
 
 import (
-	"math"
 	"slices"
-	"strconv"
-	"strings"
 	"testing"
 
 	"inquest/api"
@@ -13,38 +10,16 @@ import (
 
 const most = api.MaxVars * api.MaxFrames
 
-// lits answers the numbers of a text.
-func lits(text string) []int {
-	var l []int
-	for _, w := range strings.Fields(text) {
-		n, err := strconv.Atoi(w)
-		if err != nil {
-			panic(err)
-		}
-		l = append(l, n)
-	}
-	return l
-}
-
-// clauses answers those that a text tells, with a semicolon behind each of them.
-func clauses(text string) [][]int {
-	var l [][]int
-	for text != "" {
-		c, rest, ended := strings.Cut(text, ";")
-		if !ended {
-			panic(text)
-		}
-		l = append(l, lits(c))
-		text = rest
-	}
-	return l
-}
-
-// noLits are no literals of variables 1 to 3. Cut to fewer bits, some of them are.
-var noLits = []int{0, 4, -4, 5, -5, 256, 257, 1<<31 + 1, 1<<32 + 1, -1<<32 + 1, -1<<32 - 1, math.MaxInt, math.MinInt, math.MinInt + 1}
-
-// noNumbers are no numbers of variables.
-var noNumbers = []int{-1, -3, most + 1, most + 3, 1 << 31, 1 << 32, 1<<32 + 3, math.MaxInt, math.MinInt, math.MinInt + 3}
+var (
+	lits        = sample.Lits
+	clauses     = sample.Clauses
+	noLits      = sample.NoLits()
+	noNumbers   = sample.NoVars()
+	someLits    = sample.SomeLits
+	someClauses = sample.SomeClauses
+	roomy       = sample.Roomy
+	same        = sample.Untouched
+)
 
 // P11.1: May.
 func TestMay(t *testing.T) {
@@ -399,28 +374,6 @@ func TestMustRefused(t *testing.T) {
 	refused(nil, []int{-1}, 0)
 }
 
-func someLits(roll func(int) int, vars, many int) []int {
-	l := make([]int, many)
-	for i := range l {
-		l[i] = 1 + roll(vars)
-		if roll(2) == 0 {
-			l[i] = -l[i]
-		}
-	}
-	return l
-}
-
-func someClauses(roll func(int) int, vars, many int) [][]int {
-	l := make([][]int, many)
-	for i := range l {
-		l[i] = someLits(roll, vars, 1+roll(4)+roll(20)/19)
-		if roll(200) == 0 {
-			l[i] = nil
-		}
-	}
-	return l
-}
-
 // judgedOrder goes through the variables, straight by the chapter's words.
 func judgedOrder(c []int, vars int) (clause []int, talk bool) {
 	for v := 1; v <= vars; v++ {
@@ -584,15 +537,6 @@ func TestConsequences(t *testing.T) {
 	if many < 1000 {
 		t.Errorf("only %d models", many)
 	}
-}
-
-// roomy answers a list with spare capacity, which is all 0.
-func roomy(l []int) []int { return append(make([]int, 0, len(l)+9), l...) }
-
-// same tells whether a list is as it was, and so is its spare capacity.
-func same(l, was []int) bool {
-	behind := l[len(l):cap(l)]
-	return slices.Equal(l, was) && slices.Equal(behind, make([]int, len(behind)))
 }
 
 // Rule 5: arguments and their spare capacity stay as they are.

@@ -108,8 +108,7 @@ func same(t *testing.T, q *Queue, j *judged) {
 
 // P12.1: New.
 func TestNew(t *testing.T) {
-	const most = api.MaxVars * api.MaxFrames
-	for _, vars := range []int{-1, -3, most + 1, most + 3, 1 << 31, 1 << 32, 1<<32 + 3, math.MaxInt, math.MinInt, math.MinInt + 3} {
+	for _, vars := range sample.NoVars() {
 		if q, e := New(vars); q != nil || e != api.ErrArg {
 			t.Errorf("New(%d) = %v, %d", vars, q, e)
 		}

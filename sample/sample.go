@@ -1,4 +1,4 @@
-// Package sample makes circuits and traces for the tests of the layers: no layer makes use of it.
+// Package sample makes circuits, traces and clauses for the tests of the layers: no layer makes use of it.
 package sample
 
 import (
