@@ -17,8 +17,8 @@ var (
 	noNumbers   = sample.NoVars()
 	someLits    = sample.SomeLits
 	someClauses = sample.SomeClauses
-	roomy       = sample.Roomy
-	same        = sample.Untouched
+	roomy       = sample.Roomy[int]
+	same        = sample.Untouched[int]
 )
 
 // P11.1: May.

@@ -481,40 +481,19 @@ func TestFramesAreEver(t *testing.T) {
 	}
 }
 
-// roomy answers a list with spare capacity.
-func roomy[T any](l []T) []T { return append(make([]T, 0, len(l)+9), l...) }
-
-// behind answers what is in the spare capacity of a list.
-func behind[T any](l []T) []T { return l[len(l):cap(l)] }
-
 // P9.1, P9.2: arguments and their spare capacity stay as they are.
 func TestChangesNoArgument(t *testing.T) {
-	c := sample.Full()
-	c.Latches, c.Gates, c.Outputs = roomy(c.Latches), roomy(c.Gates), roomy(c.Outputs)
-	c.Bads, c.Constraints = roomy(c.Bads), roomy(c.Constraints)
-	lits := roomy([]uint32{18, 10, 1})
-	frame := roomy(sample.Digits("01"))
-	x := api.Trace{Init: roomy(sample.Digits("011")), Frames: roomy([][]uint8{frame, frame, sample.Digits("11")})}
-	was := norm.CopyTrace(x)
+	c, lits := sample.RoomyCircuit(sample.Full()), sample.Roomy([]uint32{18, 10, 1})
+	was := sample.Told(0, "011", "01", "01", "11")
+	x := sample.RoomyTrace(was)
+	// A frame that is there twice is one list.
+	x.Frames[1] = x.Frames[0]
 	Of(c, lits)
 	Ever(c, lits)
 	Frames(c, 0, 4)
 	free, _ := Free(c, x)
-	if !norm.Same(c, sample.Full()) || !slices.Equal(lits, []uint32{18, 10, 1}) || !norm.SameTrace(x, was) {
+	if !sample.UntouchedCircuit(c, sample.Full()) || !sample.Untouched(lits, []uint32{18, 10, 1}) || !sample.UntouchedTrace(x, was) {
 		t.Errorf("an argument was changed: %v, %v, %v", c, lits, x)
-	}
-	for i, l := range [][]uint32{behind(c.Outputs), behind(c.Bads), behind(c.Constraints), behind(lits)} {
-		if slices.ContainsFunc(l, func(x uint32) bool { return x != 0 }) {
-			t.Errorf("behind list %d: %v", i, l)
-		}
-	}
-	for i, l := range [][]uint8{behind(x.Init), behind(frame)} {
-		if slices.ContainsFunc(l, func(x uint8) bool { return x != 0 }) {
-			t.Errorf("behind values %d: %v", i, l)
-		}
-	}
-	if slices.ContainsFunc(behind(x.Frames), func(l []uint8) bool { return l != nil }) {
-		t.Errorf("behind the frames: %v", behind(x.Frames))
 	}
 	for _, l := range append(free.Frames, free.Init) {
 		l = l[:cap(l)]
@@ -527,20 +506,10 @@ func TestChangesNoArgument(t *testing.T) {
 	}
 }
 
-// checkApart spoils one list after the other, and looks at those behind it.
 func checkApart[T comparable](t *testing.T, what string, l [][]T, spoil T) {
 	t.Helper()
-	var was [][]T
-	for _, x := range l {
-		was = append(was, slices.Clone(x))
-	}
-	for i := range l {
-		if !slices.EqualFunc(l[i:], was[i:], slices.Equal) {
-			t.Errorf("%s: a change to a list ahead of list %d: %v", what, i, l)
-		}
-		for j := range l[i][:cap(l[i])] {
-			l[i][:cap(l[i])][j] = spoil
-		}
+	if !sample.Apart(l, spoil) {
+		t.Errorf("%s: a change to a list shows in one behind it: %v", what, l)
 	}
 }
 

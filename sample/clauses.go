@@ -2,7 +2,6 @@ package sample
 
 import (
 	"math"
-	"slices"
 	"strconv"
 	"strings"
 
@@ -70,13 +69,4 @@ func SomeClauses(roll func(int) int, vars, many int) [][]int {
 		}
 	}
 	return l
-}
-
-// Roomy answers a list with spare capacity, which is all 0.
-func Roomy(l []int) []int { return append(make([]int, 0, len(l)+9), l...) }
-
-// Untouched tells whether a list is as it was, and whether its spare capacity is all 0 still.
-func Untouched(l, was []int) bool {
-	behind := l[len(l):cap(l)]
-	return slices.Equal(l, was) && slices.Equal(behind, make([]int, len(behind)))
 }
