@@ -126,18 +126,6 @@ func constants() api.Circuit {
 	}
 }
 
-// much has, in as many frames as there may be, one clause fewer than there may be; each reset adds one.
-func much(resets int) api.Circuit {
-	c := api.Circuit{Inputs: 1, Latches: make([]api.Latch, 800), Gates: make([]api.Gate, 834), Bads: []uint32{2}, Constraints: []uint32{3}}
-	for i := range c.Latches {
-		c.Latches[i].Reset = api.X
-		if i < 62+resets {
-			c.Latches[i].Reset = uint8(i % 2)
-		}
-	}
-	return c
-}
-
 // P14.1: Vars.
 func TestVars(t *testing.T) {
 	for _, c := range []struct {
@@ -154,7 +142,7 @@ func TestVars(t *testing.T) {
 		{api.Circuit{}, api.MaxFrames, 1},
 		{api.Circuit{Inputs: api.MaxVars}, 1, 16385},
 		{api.Circuit{Inputs: api.MaxVars}, api.MaxFrames, 1<<22 + 1},
-		{much(3), api.MaxFrames, 1 + 1635*256},
+		{sample.Much(3), api.MaxFrames, 1 + 1635*256},
 	} {
 		if n, e := Vars(c.c, c.frames); n != c.want || e != api.OK {
 			t.Errorf("Vars(%v, %d) = %d, %d, not %d", c.c, c.frames, n, e, c.want)
@@ -186,7 +174,7 @@ func TestLit(t *testing.T) {
 		{api.Circuit{}, 1, api.MaxFrames - 1, 1},
 		{api.Circuit{Inputs: api.MaxVars}, 2 * api.MaxVars, 0, 16385},
 		{api.Circuit{Inputs: api.MaxVars}, 2*api.MaxVars + 1, api.MaxFrames - 1, -1<<22 - 1},
-		{much(3), 3, api.MaxFrames - 1, -(1 + 1635*255 + 1)},
+		{sample.Much(3), 3, api.MaxFrames - 1, -(1 + 1635*255 + 1)},
 	} {
 		if n, e := Lit(c.c, c.lit, c.frame); n != c.want || e != api.OK {
 			t.Errorf("Lit(%v, %d, %d) = %d, %d, not %d", c.c, c.lit, c.frame, n, e, c.want)
@@ -441,7 +429,7 @@ func TestShortModels(t *testing.T) {
 
 // P14.1, P14.2: as many clauses as there may be.
 func TestMostClauses(t *testing.T) {
-	c := much(1)
+	c := sample.Much(1)
 	l, e := Clauses(c, api.MaxFrames)
 	if len(l) != api.MaxClauses || e != api.OK || !same(l, judgedClauses(c, api.MaxFrames)) {
 		t.Errorf("Clauses: %d, %d", len(l), e)
@@ -463,7 +451,7 @@ func TestTooManyClauses(t *testing.T) {
 	for _, c := range []struct {
 		c      api.Circuit
 		frames int
-	}{{much(2), api.MaxFrames}, {much(3), api.MaxFrames}, {gates, 22}, {gates, api.MaxFrames}, {latches, 33}, {latches, api.MaxFrames}} {
+	}{{sample.Much(2), api.MaxFrames}, {sample.Much(3), api.MaxFrames}, {gates, 22}, {gates, api.MaxFrames}, {latches, 33}, {latches, api.MaxFrames}} {
 		l, e := Clauses(c.c, c.frames)
 		refused(t, "Clauses", len(l) == 0, e, api.ErrLimit)
 		l, first, e := Relaxed(c.c, c.frames)
@@ -490,7 +478,7 @@ func TestTooManyClauses(t *testing.T) {
 // P14.2: Given and Trace have no limit of clauses.
 func TestTracesOfMuch(t *testing.T) {
 	roll := sample.Dice(9)
-	for _, c := range []api.Circuit{much(300), {Inputs: 1, Latches: slices.Repeat([]api.Latch{{Next: 3, Reset: api.X}}, api.MaxVars-1), Bads: []uint32{2}}} {
+	for _, c := range []api.Circuit{sample.Much(300), {Inputs: 1, Latches: slices.Repeat([]api.Latch{{Next: 3, Reset: api.X}}, api.MaxVars-1), Bads: []uint32{2}}} {
 		x := sample.Trace(roll, c, 0, api.MaxFrames, 2)
 		l, e := Given(c, x)
 		if !slices.Equal(l, judgedGiven(c, x)) || e != api.OK {

@@ -497,26 +497,9 @@ func checkApart(t *testing.T, what string, l, want [][]uint8) {
 	}
 }
 
-// counter counts from 0 on in as many latches, the first of which is the least digit, while its only input is 1.
-func counter(latches int) api.Circuit {
-	c := api.Circuit{Inputs: 1, Bads: []uint32{1}}
-	carry := uint32(2)
-	for i := range latches {
-		latch, gate := uint32(4+2*i), uint32(4+2*latches+6*i)
-		// Both, neither, and one alone: the first of them is carried on.
-		c.Gates = append(c.Gates,
-			api.Gate{A: max(latch, carry), B: min(latch, carry)},
-			api.Gate{A: max(latch+1, carry^1), B: min(latch+1, carry^1)},
-			api.Gate{A: gate + 3, B: gate + 1})
-		c.Latches = append(c.Latches, api.Latch{Next: gate + 4})
-		carry = gate
-	}
-	return c
-}
-
 // P8.1, P8.2: as many frames as there may be, all of different states; and one more.
 func TestMostFrames(t *testing.T) {
-	c := counter(8)
+	c := sample.Counter(8)
 	x := api.Trace{Init: make([]uint8, 8), Frames: slices.Repeat(frames("1"), api.MaxFrames)}
 	l, e := States(c, x)
 	if len(l) != api.MaxFrames || e != api.OK {

@@ -96,6 +96,35 @@ func Full() api.Circuit {
 	}
 }
 
+// Counter counts from 0 on in as many latches, the first of which is the least digit, while its only input is 1.
+func Counter(latches int) api.Circuit {
+	c := api.Circuit{Inputs: 1, Bads: []uint32{1}}
+	carry := uint32(2)
+	for i := range latches {
+		latch, gate := uint32(4+2*i), uint32(4+2*latches+6*i)
+		// Both, neither, and one alone: the first of them is carried on.
+		c.Gates = append(c.Gates,
+			api.Gate{A: max(latch, carry), B: min(latch, carry)},
+			api.Gate{A: max(latch+1, carry^1), B: min(latch+1, carry^1)},
+			api.Gate{A: gate + 3, B: gate + 1})
+		c.Latches = append(c.Latches, api.Latch{Next: gate + 4})
+		carry = gate
+	}
+	return c
+}
+
+// Much has, unrolled to as many frames as there may be, one clause fewer than there may be; each reset adds one.
+func Much(resets int) api.Circuit {
+	c := api.Circuit{Inputs: 1, Latches: make([]api.Latch, 800), Gates: make([]api.Gate, 834), Bads: []uint32{2}, Constraints: []uint32{3}}
+	for i := range c.Latches {
+		c.Latches[i].Reset = api.X
+		if i < 62+resets {
+			c.Latches[i].Reset = uint8(i % 2)
+		}
+	}
+	return c
+}
+
 // WrongCircuits are Full with one change each that makes it a circuit that is not valid.
 func WrongCircuits() []api.Circuit {
 	var l []api.Circuit
